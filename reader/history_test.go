@@ -176,7 +176,7 @@ func TestDrawnHistories(t *testing.T) {
 	d := draw(7)
 	for range 60 {
 		h, pace := newHistory(t), 1+d.below(5)
-		for range 20 + d.below(200) {
+		for range 20 + d.below(500) {
 			switch d.below(4 + pace) {
 			case 0:
 				h.readOn(t, 1+d.below(len(h.s.Feed())+1))
